@@ -1,0 +1,115 @@
+// Package scribe: texts that many write at once, and a server that loses nothing: see DOC.md.
+package scribe
+
+import "scribe/files"
+
+// Errno is what a call answers: OK or the reason for a refusal.
+type Errno int
+
+const (
+	OK        Errno = 0
+	ErrOp     Errno = 1  // no change
+	ErrLength Errno = 2  // a change that does not fit
+	ErrName   Errno = 3  // no name
+	ErrTwice  Errno = 4  // a document that there is already
+	ErrNone   Errno = 5  // a document that there is not
+	ErrOld    Errno = 6  // a number that is over
+	ErrGap    Errno = 7  // a number that is not the next
+	ErrBase   Errno = 8  // no revision
+	ErrMany   Errno = 9  // too many
+	ErrFull   Errno = 10 // the files are full
+)
+
+// The kinds of parts.
+const (
+	Keep int = iota + 1
+	Add
+	Drop
+)
+
+// Part is one of a change.
+type Part struct {
+	Kind int
+	N    int
+	Text string
+}
+
+// Entry is who changed a document, and how.
+type Entry struct {
+	Client string
+	Change []Part
+}
+
+// Client changes a text. Make it by NewClient.
+type Client struct{}
+
+// Server keeps documents. Make it by Start.
+type Server struct{}
+
+// Fit tells how many bytes what a change makes has (P2).
+func Fit(change []Part, length int) (int, Errno) {
+	n, err := fit(change, length)
+	return n, number(err)
+}
+
+// Short tells a change in short (P2).
+func Short(change []Part) ([]Part, Errno) {
+	l, err := short(change)
+	return l, number(err)
+}
+
+// Do does a change to a text (P2).
+func Do(text string, change []Part) (string, Errno) {
+	s, err := do(text, change)
+	return s, number(err)
+}
+
+// Join makes one change of two (P3).
+func Join(a []Part, b []Part) ([]Part, Errno) {
+	l, err := join(a, b)
+	return l, number(err)
+}
+
+// Turn turns two changes by one another (P4).
+func Turn(a []Part, b []Part) ([]Part, []Part, Errno) {
+	x, y, err := turn(a, b)
+	return x, y, number(err)
+}
+
+// NewClient makes a client (P5).
+func NewClient(name string, text string, rev int) (*Client, Errno) { return nil, 0 }
+
+// Edit changes the client's text (P5).
+func (c *Client) Edit(change []Part) Errno { return 0 }
+
+// Send tells what is to be sent (P5).
+func (c *Client) Send() ([]Part, int, int, bool) { return nil, 0, 0, false }
+
+// Hear tells the client the next entry (P6).
+func (c *Client) Hear(e Entry) Errno { return 0 }
+
+// Text tells the client's text (P6).
+func (c *Client) Text() string { return "" }
+
+// Rev tells the client's revision (P6).
+func (c *Client) Rev() int { return 0 }
+
+// Start starts a server over files (P7).
+func Start(f *files.Files) (*Server, Errno) { return nil, 0 }
+
+// Make makes a document (P7).
+func (s *Server) Make(doc string) Errno { return 0 }
+
+// Submit takes a change (P8).
+func (s *Server) Submit(client string, seq int, doc string, base int, change []Part) (int, Errno) {
+	return 0, 0
+}
+
+// Rev tells a document's revision (P9).
+func (s *Server) Rev(doc string) (int, Errno) { return 0, 0 }
+
+// Text tells the text of a revision (P9).
+func (s *Server) Text(doc string, rev int) (string, Errno) { return "", 0 }
+
+// Since tells the entries behind a revision (P9).
+func (s *Server) Since(doc string, rev int) ([]Entry, Errno) { return nil, 0 }
