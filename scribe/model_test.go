@@ -182,11 +182,26 @@ func randomChange(r *rand.Rand, n int) []scribe.Part {
 	return out
 }
 
+func modelDo(text string, change parts) string {
+	return letters(done(marks("text", text), change, "a"))
+}
+
+func modelJoin(n int, a, b parts) parts {
+	text := marks("text", textOf(n))
+	return between(text, done(done(text, a, "a"), b, "b"))
+}
+
+func modelTurn(a, b parts) (parts, parts) {
+	n, _ := over(a)
+	text := marks("text", textOf(n))
+	together := mixed(text, a, b, true, true)
+	return between(mixed(text, a, b, false, true), together), between(mixed(text, a, b, true, false), together)
+}
+
 func checkJoin(t *testing.T, a, b []scribe.Part) {
 	t.Helper()
 	n, _ := over(a)
-	text := marks("text", textOf(n))
-	want := between(text, done(done(text, a, "a"), b, "b"))
+	want := modelJoin(n, a, b)
 	got, e := scribe.Join(a, b)
 	if e != scribe.OK || !slices.Equal(got, want) {
 		t.Fatalf("Join(%v, %v) = %v, %d, want %v", a, b, got, e, want)
@@ -195,16 +210,14 @@ func checkJoin(t *testing.T, a, b []scribe.Part) {
 
 func checkTurn(t *testing.T, a, b []scribe.Part) {
 	t.Helper()
-	n, _ := over(a)
-	text := marks("text", textOf(n))
-	together := mixed(text, a, b, true, true)
-	wantA := between(mixed(text, a, b, false, true), together)
-	wantB := between(mixed(text, a, b, true, false), together)
+	wantA, wantB := modelTurn(a, b)
 	x, y, e := scribe.Turn(a, b)
 	if e != scribe.OK || !slices.Equal(x, wantA) || !slices.Equal(y, wantB) {
 		t.Fatalf("Turn(%v, %v) = %v, %v, %d, want %v, %v", a, b, x, y, e, wantA, wantB)
 	}
-	byA, e := scribe.Do(letters(text), a)
+	n, _ := over(a)
+	together := mixed(marks("text", textOf(n)), a, b, true, true)
+	byA, e := scribe.Do(textOf(n), a)
 	if e != scribe.OK {
 		t.Fatalf("Do %v: %d", a, e)
 	}

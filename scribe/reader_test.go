@@ -29,7 +29,7 @@ func TestTroubleWraps(t *testing.T) {
 	if !errors.Is(err, errNoChange) || errors.Is(err, errNoFit) || err.Error() != "outer: inner: this is no change" {
 		t.Errorf("%v", err)
 	}
-	for err, want := range map[error]Errno{nil: OK, err: ErrOp, errNoFit: ErrLength, &trouble{"x", errNoFit}: ErrLength} {
+	for err, want := range map[error]Errno{nil: OK, err: ErrOp, errNoFit: ErrLength, &trouble{"x", errNoFit}: ErrLength, errNoName: ErrName, errNoRevision: ErrBase, &trouble{"x", errOver}: ErrOld} {
 		if number(err) != want {
 			t.Errorf("%v is number %d, want %d", err, number(err), want)
 		}
@@ -37,5 +37,9 @@ func TestTroubleWraps(t *testing.T) {
 	_, err = join([]Part{{Kind: Keep, N: 1}}, []Part{{Kind: Add, Text: "x"}, {Kind: 9}})
 	if err == nil || err.Error() != "join: b: part 1: kind 9: this is no change" {
 		t.Errorf("Join tells %v", err)
+	}
+	c, _ := newClient("me", "text", 0)
+	if err := c.hear(Entry{Client: "you", Change: []Part{{Kind: Drop}}}); err == nil || err.Error() != "hear: do: fit: part 0: a Keep or Drop of no bytes: this is no change" {
+		t.Errorf("Hear tells %v", err)
 	}
 }

@@ -41,7 +41,14 @@ type Entry struct {
 }
 
 // Client changes a text. Make it by NewClient.
-type Client struct{}
+type Client struct {
+	name  string
+	text  string // that of its revision, with what is on its way and the edits behind that done to it
+	rev   int
+	seq   int // the number of what was sent last
+	way   parcel
+	edits own
+}
 
 // Server keeps documents. Make it by Start.
 type Server struct{}
@@ -77,22 +84,35 @@ func Turn(a []Part, b []Part) ([]Part, []Part, Errno) {
 }
 
 // NewClient makes a client (P5).
-func NewClient(name string, text string, rev int) (*Client, Errno) { return nil, 0 }
+func NewClient(name string, text string, rev int) (*Client, Errno) {
+	c, err := newClient(name, text, rev)
+	return c, number(err)
+}
 
 // Edit changes the client's text (P5).
-func (c *Client) Edit(change []Part) Errno { return 0 }
+func (c *Client) Edit(change []Part) Errno { return number(c.edit(change)) }
 
-// Send tells what is to be sent (P5).
-func (c *Client) Send() ([]Part, int, int, bool) { return nil, 0, 0, false }
+// Send tells what is to be sent (P5): the change, its number and its base.
+func (c *Client) Send() ([]Part, int, int, bool) { return c.send() }
 
 // Hear tells the client the next entry (P6).
-func (c *Client) Hear(e Entry) Errno { return 0 }
+func (c *Client) Hear(e Entry) Errno { return number(c.hear(e)) }
 
 // Text tells the client's text (P6).
-func (c *Client) Text() string { return "" }
+func (c *Client) Text() string {
+	if c == nil {
+		return ""
+	}
+	return c.text
+}
 
 // Rev tells the client's revision (P6).
-func (c *Client) Rev() int { return 0 }
+func (c *Client) Rev() int {
+	if c == nil {
+		return 0
+	}
+	return c.rev
+}
 
 // Start starts a server over files (P7).
 func Start(f *files.Files) (*Server, Errno) { return nil, 0 }

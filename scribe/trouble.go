@@ -4,8 +4,11 @@ import "errors"
 
 // What can go wrong inside; the face makes an Errno of it.
 var (
-	errNoChange = errors.New("this is no change")
-	errNoFit    = errors.New("this change does not fit")
+	errNoChange   = errors.New("this is no change")
+	errNoFit      = errors.New("this change does not fit")
+	errNoName     = errors.New("this is no name")
+	errNoRevision = errors.New("this is no revision")
+	errOver       = errors.New("this is over")
 )
 
 // trouble tells where or how something went wrong, and wraps what it was.
@@ -25,6 +28,12 @@ func number(err error) Errno {
 		return OK
 	case errors.Is(err, errNoChange):
 		return ErrOp
+	case errors.Is(err, errNoName):
+		return ErrName
+	case errors.Is(err, errNoRevision):
+		return ErrBase
+	case errors.Is(err, errOver):
+		return ErrOld
 	default:
 		return ErrLength
 	}
