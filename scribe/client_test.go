@@ -418,7 +418,7 @@ func TestStepsInEveryOrder(t *testing.T) {
 		p := newPair(t, textOf(order%7), order%3, int64(order))
 		for i, left := 0, order; i < length; i, left = i+1, left/kinds {
 			p.step(left % kinds)
-			if order%8 == 0 {
+			if order%5 == 0 { // (all orders would take long)
 				p.refusals()
 			}
 		}
