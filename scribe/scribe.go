@@ -51,7 +51,12 @@ type Client struct {
 }
 
 // Server keeps documents. Make it by Start.
-type Server struct{}
+type Server struct {
+	log  log
+	docs map[string]document
+	last map[string]int  // by client: the number of the last change that was taken of it
+	made map[sending]int // the revision that this change made
+}
 
 // Fit tells how many bytes what a change makes has (P2).
 func Fit(change []Part, length int) (int, Errno) {
@@ -115,21 +120,34 @@ func (c *Client) Rev() int {
 }
 
 // Start starts a server over files (P7).
-func Start(f *files.Files) (*Server, Errno) { return nil, 0 }
+func Start(f *files.Files) (*Server, Errno) {
+	s, err := start(f)
+	return s, number(err)
+}
 
 // Make makes a document (P7).
-func (s *Server) Make(doc string) Errno { return 0 }
+func (s *Server) Make(doc string) Errno { return number(s.create(doc)) }
 
 // Submit takes a change (P8).
 func (s *Server) Submit(client string, seq int, doc string, base int, change []Part) (int, Errno) {
-	return 0, 0
+	rev, err := s.submit(client, seq, doc, base, change)
+	return rev, number(err)
 }
 
 // Rev tells a document's revision (P9).
-func (s *Server) Rev(doc string) (int, Errno) { return 0, 0 }
+func (s *Server) Rev(doc string) (int, Errno) {
+	d, err := s.now().document(doc)
+	return len(d), number(err)
+}
 
 // Text tells the text of a revision (P9).
-func (s *Server) Text(doc string, rev int) (string, Errno) { return "", 0 }
+func (s *Server) Text(doc string, rev int) (string, Errno) {
+	text, err := s.text(doc, rev)
+	return text, number(err)
+}
 
 // Since tells the entries behind a revision (P9).
-func (s *Server) Since(doc string, rev int) ([]Entry, Errno) { return nil, 0 }
+func (s *Server) Since(doc string, rev int) ([]Entry, Errno) {
+	l, err := s.since(doc, rev)
+	return l, number(err)
+}

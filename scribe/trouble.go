@@ -9,6 +9,13 @@ var (
 	errNoName     = errors.New("this is no name")
 	errNoRevision = errors.New("this is no revision")
 	errOver       = errors.New("this is over")
+	errTwice      = errors.New("there is one already")
+	errNone       = errors.New("there is none")
+	errGap        = errors.New("this is not the next")
+	errMany       = errors.New("there are too many")
+	errFull       = errors.New("the files are full")
+	errTaken      = errors.New("this was taken") // answered by what it made, not by a number
+	errTorn       = errors.New("this is torn")   // passed over, and not told
 )
 
 // trouble tells where or how something went wrong, and wraps what it was.
@@ -34,6 +41,16 @@ func number(err error) Errno {
 		return ErrBase
 	case errors.Is(err, errOver):
 		return ErrOld
+	case errors.Is(err, errTwice):
+		return ErrTwice
+	case errors.Is(err, errNone):
+		return ErrNone
+	case errors.Is(err, errGap):
+		return ErrGap
+	case errors.Is(err, errMany):
+		return ErrMany
+	case errors.Is(err, errFull):
+		return ErrFull
 	default:
 		return ErrLength
 	}
